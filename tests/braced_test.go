@@ -160,17 +160,7 @@ func TestWrittenIsReadAsItWas(t *testing.T) {
 	}
 }
 
-func TestBracedWritesIntoNothing(t *testing.T) {
-	for i, n := range append(goodTrees(), badTrees()[:60]...) {
-		arg := roomy(n)
-		was := wholeRoom(arg)
-		first := impl.Braced(arg)
-		wantTree(t, fmt.Sprintf("Braced of tree %d, what was handed in", i), wholeRoom(arg), was)
-		if again := impl.Braced(n); again != first {
-			t.Errorf("Braced of tree %d is %.60q, then %.60q", i, first, again)
-		}
-	}
-}
+func TestBracedWritesIntoNothing(t *testing.T) { writesIntoNothing(t, "Braced", impl.Braced) }
 
 func wantRead(t *testing.T, s string, want node) {
 	t.Helper()

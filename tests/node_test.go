@@ -108,3 +108,35 @@ func scribble(n node) {
 		keys[i] = "scribbled"
 	}
 }
+
+// readsShareNothing reads each text more than once, and writes into one answer ahead of looking at another.
+func readsShareNothing(t *testing.T, what string, read func(string) (node, int), texts []string) {
+	t.Helper()
+	for _, s := range texts {
+		got, place := read(s)
+		if place != -1 {
+			t.Fatalf("%s(%.60q) answers the place %d", what, s, place)
+		}
+		was := snapshot(got)
+		again, _ := read(s)
+		ownMemory(t, what, got, again)
+		scribble(again)
+		wantTree(t, "an earlier answer, the later one written into", got, was)
+		third, _ := read(s)
+		wantTree(t, "a later answer, the earlier one written into", third, was)
+	}
+}
+
+// writesIntoNothing hands in trees with spare room behind their lists, and looks at them again.
+func writesIntoNothing(t *testing.T, what string, write func(node) string) {
+	t.Helper()
+	for i, n := range append(goodTrees(), badTrees()[:60]...) {
+		arg := roomy(n)
+		was := wholeRoom(arg)
+		first := write(arg)
+		wantTree(t, fmt.Sprintf("%s of tree %d, what was handed in", what, i), wholeRoom(arg), was)
+		if again := write(n); again != first {
+			t.Errorf("%s of tree %d is %.60q, then %.60q", what, i, first, again)
+		}
+	}
+}

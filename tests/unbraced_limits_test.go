@@ -152,17 +152,5 @@ func TestUnbracedSharesNothing(t *testing.T) {
 		`{"b":[1,2,3],"a":[1,2,3],"c":{"b":[1],"a":[1]}}`, `[{"a":1,"b":2,"c":3},{"a":1,"b":2,"c":3}]`,
 		manyWritten(impl.MaxNodes - 1), "[" + strings.Repeat("[1,[2,3]],", 30) + "[]]",
 	}
-	for _, s := range texts {
-		got, place := impl.Unbraced(s)
-		if place != -1 {
-			t.Fatalf("Unbraced(%.60q) answers the place %d", s, place)
-		}
-		was := snapshot(got)
-		again, _ := impl.Unbraced(s)
-		ownMemory(t, "Unbraced", got, again)
-		scribble(again)
-		wantTree(t, "an earlier answer, the later one written into", got, was)
-		third, _ := impl.Unbraced(s)
-		wantTree(t, "a later answer, the earlier one written into", third, was)
-	}
+	readsShareNothing(t, "Unbraced", impl.Unbraced, texts)
 }
