@@ -10,14 +10,14 @@ import (
 	"loop.example/g00465/impl"
 )
 
-// readAll is what the four of them answer of a tree.
+// readAll is what all of them answer of a tree.
 func readAll(n node) []any {
 	metrics, a := impl.MetricsOf(n)
 	pace, b := impl.PaceOf(n)
 	notes, c := impl.NotesOf(n)
 	o, d := impl.FullOf(n)
-	o.Metrics, o.Notes = append([]metric{}, o.Metrics...), append([]note{}, o.Notes...)
-	return []any{append([]metric{}, metrics...), a, pace, b, append([]note{}, notes...), c, o, d}
+	p, e := impl.MidOf(n)
+	return []any{append([]metric{}, metrics...), a, pace, b, append([]note{}, notes...), c, anew(o), d, anew(p), e}
 }
 
 // shapedTrees are trees that are read, or nearly so, whole and in parts.
@@ -26,7 +26,7 @@ func shapedTrees(t *testing.T) []node {
 	var out []node
 	turned := impl.FullTree(fullOrder())
 	slices.Reverse(turned.Kids[3].Kids)
-	for _, n := range []node{impl.FullTree(webOrder()), impl.FullTree(fullOrder()), leastFull(t), turned} {
+	for _, n := range []node{impl.FullTree(webOrder()), impl.FullTree(fullOrder()), leastFull(t), turned, impl.MidTree(webOrder()), impl.MidTree(fullOrder())} {
 		out = append(out, n)
 		out = append(out, n.Kids...)
 		for _, key := range n.Keys {
@@ -89,6 +89,7 @@ func TestReadListsAreNewMemory(t *testing.T) {
 func TestShapedTreesAreNewMemory(t *testing.T) {
 	calls := map[string]func(o order) node{
 		"FullTree":   impl.FullTree,
+		"MidTree":    impl.MidTree,
 		"MetricTree": func(o order) node { return impl.MetricTree(o.Metrics[0]) },
 		"PaceTree":   func(o order) node { return impl.PaceTree(o.Pace) },
 	}
@@ -179,20 +180,22 @@ func TestReadingEndlessTrees(t *testing.T) {
 
 // What is made once is made for all who ask, also for those who ask at the same time.
 func TestReadingAtTheSameTime(t *testing.T) {
-	tree, want := impl.FullTree(webOrder()), readAll(impl.FullTree(webOrder()))
-	got := make([][]any, 32)
-	var all sync.WaitGroup
-	for i := range got {
-		all.Go(func() {
-			for range 200 {
-				got[i] = readAll(tree)
+	for _, tree := range []node{impl.FullTree(webOrder()), impl.MidTree(webOrder())} {
+		want := readAll(tree)
+		got := make([][]any, 32)
+		var all sync.WaitGroup
+		for i := range got {
+			all.Go(func() {
+				for range 200 {
+					got[i] = readAll(tree)
+				}
+			})
+		}
+		all.Wait()
+		for i := range got {
+			if !reflect.DeepEqual(got[i], want) {
+				t.Errorf("%d: %.300s", i, fmt.Sprint(got[i]))
 			}
-		})
-	}
-	all.Wait()
-	for i := range got {
-		if !reflect.DeepEqual(got[i], want) {
-			t.Errorf("%d: %.300s", i, fmt.Sprint(got[i]))
 		}
 	}
 }

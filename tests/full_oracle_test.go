@@ -158,15 +158,22 @@ func notesWays(n node) []string {
 	return ways
 }
 
+// shapeWays are the ways of what is wrong in a map of that `kind`; also says what else may be there.
+func shapeWays(n node, kind string, also map[string]func(node) []string) []string {
+	bound := leaf(func(n node) bool { return manyIn(n, 1) })
+	may := map[string]func(node) []string{
+		"high": bound, "low": bound, "name": leaf(nameIn), "target": leaf(nameIn), "metrics": metricsWays, "notes": notesWays,
+		"kind": leaf(func(n node) bool { return n.Kind == impl.NdText && n.S == kind }),
+	}
+	maps.Copy(may, also)
+	return mapWays(n, may, "high", "kind", "name", "target")
+}
+
 func fullWays(n node) []string {
 	if n.Kind != impl.NdMap {
 		return []string{"."}
 	}
-	bound := leaf(func(n node) bool { return manyIn(n, 1) })
-	ways := mapWays(n, map[string]func(node) []string{
-		"high": bound, "low": bound, "name": leaf(nameIn), "target": leaf(nameIn), "metrics": metricsWays, "notes": notesWays, "pace": paceWays,
-		"kind": leaf(func(n node) bool { return n.Kind == impl.NdText && n.S == "full" }),
-	}, "high", "kind", "name", "target")
+	ways := shapeWays(n, "full", map[string]func(node) []string{"pace": paceWays})
 	if len(ways) == 0 && !orderFits(fullValue(n)) {
 		ways = append(ways, ".")
 	}

@@ -93,16 +93,9 @@ func TestFullTree(t *testing.T) {
 	}
 }
 
-// Whatever of it is wrong: the zero tree, not a part of one.
-func TestFullTreeOfNoOrder(t *testing.T) {
-	zero := func(o order) {
-		t.Helper()
-		if got := impl.FullTree(o); !reflect.DeepEqual(tidy(got), node{}) {
-			t.Errorf("FullTree(%.200s) = %s, want zero", fmt.Sprintf("%+v", o), brief(got))
-		}
-	}
-	zero(order{})
-	for _, change := range []func(o *order){
+// orderFaults are changes of which each makes an ordinary order none.
+func orderFaults() []func(o *order) {
+	return []func(o *order){
 		func(o *order) { o.Name = "" },
 		func(o *order) { o.Target = "A" },
 		func(o *order) { o.Low = 0 },
@@ -118,7 +111,19 @@ func TestFullTreeOfNoOrder(t *testing.T) {
 		func(o *order) { o.Notes[1].Key = "quay/pace" },
 		func(o *order) { o.Notes[0].Text = strings.Repeat("x", 41) },
 		func(o *order) { o.Notes = keyedNotes("a", "b", "c", "d", "e") },
-	} {
+	}
+}
+
+// Whatever of it is wrong: the zero tree, not a part of one.
+func TestFullTreeOfNoOrder(t *testing.T) {
+	zero := func(o order) {
+		t.Helper()
+		if got := impl.FullTree(o); !reflect.DeepEqual(tidy(got), node{}) {
+			t.Errorf("FullTree(%.200s) = %s, want zero", fmt.Sprintf("%+v", o), brief(got))
+		}
+	}
+	zero(order{})
+	for _, change := range orderFaults() {
 		o := anew(webOrder())
 		change(&o)
 		zero(o)
