@@ -17,7 +17,9 @@ func readAll(n node) []any {
 	notes, c := impl.NotesOf(n)
 	o, d := impl.FullOf(n)
 	p, e := impl.MidOf(n)
-	return []any{append([]metric{}, metrics...), a, pace, b, append([]note{}, notes...), c, anew(o), d, anew(p), e}
+	q, f := impl.PlainOf(n)
+	s, shape, g := impl.Shaped(n)
+	return []any{append([]metric{}, metrics...), a, pace, b, append([]note{}, notes...), c, anew(o), d, anew(p), e, anew(q), f, anew(s), shape, g}
 }
 
 // shapedTrees are trees that are read, or nearly so, whole and in parts.
@@ -26,7 +28,7 @@ func shapedTrees(t *testing.T) []node {
 	var out []node
 	turned := impl.FullTree(fullOrder())
 	slices.Reverse(turned.Kids[3].Kids)
-	for _, n := range []node{impl.FullTree(webOrder()), impl.FullTree(fullOrder()), leastFull(t), turned, impl.MidTree(webOrder()), impl.MidTree(fullOrder())} {
+	for _, n := range []node{impl.FullTree(webOrder()), impl.FullTree(fullOrder()), leastFull(t), turned, impl.MidTree(webOrder()), impl.MidTree(fullOrder()), impl.PlainTree(webOrder()), impl.PlainTree(fullOrder())} {
 		out = append(out, n)
 		out = append(out, n.Kids...)
 		for _, key := range n.Keys {
@@ -90,29 +92,41 @@ func TestShapedTreesAreNewMemory(t *testing.T) {
 	calls := map[string]func(o order) node{
 		"FullTree":   impl.FullTree,
 		"MidTree":    impl.MidTree,
+		"PlainTree":  impl.PlainTree,
+		"Shape of 0": func(o order) node { return impl.Shape(o, 0) },
+		"Shape of 1": func(o order) node { return impl.Shape(o, 1) },
+		"Shape of 2": func(o order) node { return impl.Shape(o, 2) },
 		"MetricTree": func(o order) node { return impl.MetricTree(o.Metrics[0]) },
 		"PaceTree":   func(o order) node { return impl.PaceTree(o.Pace) },
 	}
+	shared := withMetrics(fullOrder(), metricOf("a", 1, 1), metricOf("b", 2, 2), cpuOf(10), metricOf("d", 3, 3))
 	for what, call := range calls {
-		arg := roomyOrder(fullOrder())
-		was := wholeOrder(arg)
-		first, second := call(arg), call(arg)
-		ownMemory(t, what, first, second)
-		kept := snapshot(first)
-		scribble(second)
-		wantTree(t, what+", another answer written into", first, kept)
-		wantTree(t, what+" again", call(arg), kept)
-		if !reflect.DeepEqual(wholeOrder(arg), was) {
-			t.Errorf("%s: what was handed in is %+v, it was %+v", what, wholeOrder(arg), was)
+		for _, o := range []order{fullOrder(), shared, webOrder()} {
+			treesAreNewMemory(t, what, call, o)
 		}
-		for i := range arg.Metrics {
-			arg.Metrics[i] = metric{}
-		}
-		for i := range arg.Notes {
-			arg.Notes[i] = note{}
-		}
-		wantTree(t, what+", what was handed in written into", first, kept)
 	}
+}
+
+func treesAreNewMemory(t *testing.T, what string, call func(o order) node, o order) {
+	t.Helper()
+	arg := roomyOrder(o)
+	was := wholeOrder(arg)
+	first, second := call(arg), call(arg)
+	ownMemory(t, what, first, second)
+	kept := snapshot(first)
+	scribble(second)
+	wantTree(t, what+", another answer written into", first, kept)
+	wantTree(t, what+" again", call(arg), kept)
+	if !reflect.DeepEqual(wholeOrder(arg), was) {
+		t.Errorf("%s: what was handed in is %+v, it was %+v", what, wholeOrder(arg), was)
+	}
+	for i := range arg.Metrics {
+		arg.Metrics[i] = metric{}
+	}
+	for i := range arg.Notes {
+		arg.Notes[i] = note{}
+	}
+	wantTree(t, what+", what was handed in written into", first, kept)
 }
 
 // Maps whose Keys do not ascend are maps: ways are told by the Keys as they ascend, not as they stand.
@@ -180,7 +194,7 @@ func TestReadingEndlessTrees(t *testing.T) {
 
 // What is made once is made for all who ask, also for those who ask at the same time.
 func TestReadingAtTheSameTime(t *testing.T) {
-	for _, tree := range []node{impl.FullTree(webOrder()), impl.MidTree(webOrder())} {
+	for _, tree := range []node{impl.FullTree(webOrder()), impl.MidTree(webOrder()), impl.PlainTree(webOrder())} {
 		want := readAll(tree)
 		got := make([][]any, 32)
 		var all sync.WaitGroup

@@ -162,7 +162,7 @@ func notesWays(n node) []string {
 func shapeWays(n node, kind string, also map[string]func(node) []string) []string {
 	bound := leaf(func(n node) bool { return manyIn(n, 1) })
 	may := map[string]func(node) []string{
-		"high": bound, "low": bound, "name": leaf(nameIn), "target": leaf(nameIn), "metrics": metricsWays, "notes": notesWays,
+		"high": bound, "low": bound, "name": leaf(nameIn), "target": leaf(nameIn), "notes": notesWays,
 		"kind": leaf(func(n node) bool { return n.Kind == impl.NdText && n.S == kind }),
 	}
 	maps.Copy(may, also)
@@ -173,7 +173,7 @@ func fullWays(n node) []string {
 	if n.Kind != impl.NdMap {
 		return []string{"."}
 	}
-	ways := shapeWays(n, "full", map[string]func(node) []string{"pace": paceWays})
+	ways := shapeWays(n, "full", map[string]func(node) []string{"metrics": metricsWays, "pace": paceWays})
 	if len(ways) == 0 && !orderFits(fullValue(n)) {
 		ways = append(ways, ".")
 	}

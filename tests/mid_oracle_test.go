@@ -31,7 +31,7 @@ func midWays(n node) []string {
 	if n.Kind != impl.NdMap {
 		return []string{"."}
 	}
-	ways := shapeWays(n, "middle", nil)
+	ways := shapeWays(n, "middle", map[string]func(node) []string{"metrics": metricsWays})
 	if len(ways) > 0 {
 		return ways
 	}

@@ -193,15 +193,15 @@ func TestMidOfReadsLoosely(t *testing.T) {
 	wantMid(t, tree, want)
 }
 
-// midFault is one thing that is wrong: x stands there, or nothing where cut.
-type midFault struct {
+// fault is one thing that is wrong: x stands there, or nothing where cut.
+type fault struct {
 	way  string
 	path []string
 	cut  bool
 	x    node
 }
 
-func (f midFault) in(n node) node {
+func (f fault) in(n node) node {
 	if f.cut {
 		return cutAt(n, f.path...)
 	}
@@ -209,20 +209,20 @@ func (f midFault) in(n node) node {
 }
 
 // beside is whether both can be wrong at once: neither is within the other.
-func (f midFault) beside(g midFault) bool {
+func (f fault) beside(g fault) bool {
 	short := min(len(f.path), len(g.path))
 	return !slices.Equal(f.path[:short], g.path[:short])
 }
 
 // midFaults are in the order in which they count.
-func midFaults(t *testing.T) []midFault {
+func midFaults(t *testing.T) []fault {
 	t.Helper()
-	put := func(way string, x string, path ...string) midFault {
-		return midFault{way: way, path: path, x: written(t, x)}
+	put := func(way string, x string, path ...string) fault {
+		return fault{way: way, path: path, x: written(t, x)}
 	}
-	cut := func(key string) midFault { return midFault{way: key, path: []string{key}, cut: true} }
+	cut := func(key string) fault { return fault{way: key, path: []string{key}, cut: true} }
 	five := `{"a":"","b":"","c":"","d":"","e":""}`
-	return []midFault{
+	return []fault{
 		put("", `1`, ""), put("A", `1`, "A"), put("m", `1`, "m"), put("pace", `{}`, "pace"), put("quay/pace", `""`, "quay/pace"), put("share", `1`, "share"), put("zz", `1`, "zz"),
 		cut("high"), cut("kind"), cut("name"), cut("target"),
 		put("high", `0`, "high"), put("kind", `"full"`, "kind"), put("low", `0`, "low"), put("metrics", `{}`, "metrics"), put("metrics/0", `[0]`, "metrics"), put("metrics/1/kind", `[{"goal":"1","kind":"mean","name":"a"},{"goal":"1","kind":"x","name":"a"}]`, "metrics"), put("name", `"A"`, "name"),
